@@ -3,6 +3,7 @@ package vault_test
 import (
 	"fmt"
 	"math/rand"
+	"slices"
 	"sort"
 	"strings"
 	"testing"
@@ -78,11 +79,9 @@ type candidates []*model.Model
 func (c candidates) hold(right func(*model.Model) bool) candidates {
 	var l candidates
 	for _, m := range c {
-		known := false
-		for _, n := range l {
-			known = known || n.Same(m)
-		}
-		if !known && right(m) {
+		// An operation may be done here: like ones are told by how they are behind it.
+		is := right(m)
+		if is && !slices.ContainsFunc(l, m.Same) {
 			l = append(l, m)
 		}
 	}

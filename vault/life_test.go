@@ -2,6 +2,7 @@ package vault_test
 
 import (
 	"bytes"
+	"math"
 	"math/rand"
 	"slices"
 	"testing"
@@ -162,9 +163,15 @@ func wantMet(t *testing.T, met map[api.Do]map[api.Errno]int, want map[api.Do][]a
 	}
 }
 
-// P19.2 to P19.7, P19.11: random lives, where there is little room, against the plain one: each answer, and where each chunk lies.
+// P19.2 to P19.7, P19.11: random lives, where there is little room, against the plain one: each answer, and where each chunk lies. What takes away finds room at any time.
 func TestLives(t *testing.T) {
-	wantMet(t, lives(t, 300, 0), map[api.Do][]api.Errno{
+	met := lives(t, 300, 0)
+	for _, do := range []api.Do{api.Delete, api.Unsnap, api.Tick, api.Expire, api.Mount} {
+		if met[do][api.ErrSpace] > 0 {
+			t.Error("no room", do)
+		}
+	}
+	wantMet(t, met, map[api.Do][]api.Errno{
 		api.NoDo: {api.ErrForm}, api.Begin: {api.OK, api.ErrLimit, api.ErrDown}, api.Write: {api.OK, api.ErrGone, api.ErrQuota, api.ErrSpace}, api.Commit: {api.OK, api.ErrGone, api.ErrSpace}, api.Abort: {api.OK, api.ErrGone},
 		api.Read: {api.OK, api.ErrGone}, api.Range: {api.OK, api.ErrGone, api.ErrArg}, api.Shown: {api.OK, api.ErrGone}, api.Stat: {api.OK, api.ErrGone}, api.Delete: {api.OK, api.ErrGone},
 		api.Snap: {api.OK, api.ErrKnown, api.ErrSpace}, api.Unsnap: {api.OK, api.ErrGone}, api.Tick: {api.OK}, api.Expire: {api.OK, api.ErrArg}, api.Clean: {api.OK, api.ErrArg, api.ErrSpace},
@@ -177,4 +184,59 @@ func TestRottenLives(t *testing.T) {
 	wantMet(t, lives(t, 300, 12), map[api.Do][]api.Errno{
 		api.Read: {api.OK, api.ErrRot}, api.Range: {api.OK, api.ErrRot, api.ErrArg}, api.Shown: {api.OK, api.ErrRot}, api.Rot: {api.OK, api.ErrArg, api.ErrLimit}, api.Clean: {api.OK}, api.Commit: {api.OK},
 	})
+}
+
+// extreme is a number of any size.
+func extreme(r *rand.Rand) int {
+	return []int{0, 1, 2, 3, -1, 5, 100, 101, api.MaxNum, api.MaxNum + 1, math.MaxInt, math.MinInt, r.Intn(300), r.Intn(9000)}[r.Intn(14)]
+}
+
+// hostileOp is an operation of anything, often a Rot of a sector that may be the journal's.
+func hostileOp(r *rand.Rand, v *vault.Vault, x *texts) api.Op {
+	names := []string{"a", "b", "", "a b", "s", string(make([]byte, 99))}
+	o := api.Op{
+		Do: api.Do(r.Intn(25) - 1), N: extreme(r), Name: names[r.Intn(6)], Shot: names[r.Intn(6)], Gen: extreme(r), From: extreme(r), Size: extreme(r), Bytes: x.next(),
+		Keep: api.Keep{Last: extreme(r), Young: extreme(r), Step: extreme(r), Count: extreme(r)}, Crash: api.Crash{Keep: make([]bool, r.Intn(9)), Torn: extreme(r), At: extreme(r)},
+	}
+	switch r.Intn(4) {
+	case 0:
+		o.N, o.Gen = r.Intn(20), 0
+	case 1: // a sector comes to be what another one is
+		o.Do, o.N = api.Rot, r.Intn(100)
+		o.Bytes, _ = v.Sector(r.Intn(100))
+	case 2:
+		o.Do, o.N = []api.Do{api.Fall, api.Mount, api.Begin, api.Commit, api.Clean, api.Trip}[r.Intn(6)], r.Intn(100)
+	}
+	return o
+}
+
+// P1, P2, P19.11: whatever is done, and whatever rots, also in the journal: no call panics, an error comes alone, and what is held stays below what may be.
+func TestHostile(t *testing.T) {
+	met := map[api.Errno]int{}
+	for seed := range int64(400) {
+		r := rand.New(rand.NewSource(seed))
+		c := randomConfig(r)
+		c.Area = 8 + r.Intn(20)
+		c.Sectors = 2 + 2*c.Area + c.Tune.Wide + r.Intn(60)
+		v := appliance(t, c)
+		x := &texts{r: r}
+		for range 150 {
+			o := hostileOp(r, v, x)
+			a := v.Do(o)
+			met[a.Errno]++
+			if a.Errno != api.OK && !sameAnswer(a, fails(a.Errno)) {
+				t.Fatalf("seed %d: %+v: %+v", seed, o, a)
+			}
+			if v.Entries() > vault.Most(c) || v.Used() < 0 || v.Used() > c.Sectors || len(v.Places()) > v.Used() || !v.Up() && a.Errno == api.OK && o.Do < api.Trip {
+				t.Fatalf("seed %d: %+v: %+v: %d %d", seed, o, a, v.Entries(), v.Used())
+			}
+			v.Live()
+			v.Sector(extreme(r))
+		}
+	}
+	for _, e := range []api.Errno{api.OK, api.ErrArg, api.ErrForm, api.ErrLimit, api.ErrDown, api.ErrGone, api.ErrState, api.ErrRot} {
+		if met[e] == 0 {
+			t.Error("not met", e)
+		}
+	}
 }
