@@ -2,7 +2,6 @@ package vault
 
 import (
 	"bytes"
-	"slices"
 
 	"aumbry/api"
 	"aumbry/digest"
@@ -214,10 +213,16 @@ func (s *store) guessed(g api.Guess) func(chunk) (api.Spot, bool) {
 	}
 }
 
-// packed finds a chunk in a session's own packer.
+// packed finds a chunk in a session's own packer, by its bytes: unlike chunks may have one sum.
 func (x *session) packed(c chunk) (api.Spot, bool) {
-	slot := slices.Index(x.packer.Sums(), c.sum)
-	return api.Spot{Bin: x.number, Slot: slot}, slot >= 0
+	for slot := range x.packer.Len() {
+		// There is such a slot: there is no error.
+		b, _ := x.packer.Chunk(slot)
+		if bytes.Equal(b, c.bytes) {
+			return api.Spot{Bin: x.number, Slot: slot}, true
+		}
+	}
+	return api.Spot{}, false
 }
 
 // pack packs a chunk, into a new packer, if it does not fit.
