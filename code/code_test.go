@@ -196,27 +196,53 @@ func TestTakeHowMany(t *testing.T) {
 	wantNotTaken(t, []byte{0, 1, 'a', 1}, 9, api.ErrForm)
 }
 
-// P25.4: a table that ends too early, whatever else is wrong with it.
+// P25.4: a table that ends too early, behind rows against which nothing stands.
 func TestTakeShortTable(t *testing.T) {
 	whole := said(3, "a\x02b\x02c\x01", "")
 	for n := 2; n < len(whole); n++ {
 		wantNotTaken(t, whole[:n], 9, api.ErrShort)
 	}
-	for _, b := range []string{"\x03\x03b\x01a\x01", "\x03\x03b\x01a\x01c", "\x03\x03b\x00a\x00", "\x03\x03a\x00", "\x03\x02a\x3d", "\x03\x03a\x01b\x01c", "\x03\x80\x02"} {
+	for _, b := range []string{"\x03\x02a\x3d", "\x03\x03a\x01b\x01c", "\x03\x80\x02"} {
 		wantNotTaken(t, []byte(b), 9, api.ErrShort)
 	}
 	// Spare room behind the end is not read.
 	wantNotTaken(t, said(1, "a\x01", "0")[:3], 9, api.ErrShort)
 }
 
-// P25.4: bytes that do not rise, whatever their lengths are.
+// P25.4: bytes that do not rise, behind rows against which nothing stands.
 func TestTakeNotRising(t *testing.T) {
-	for _, rows := range []string{"a\x01a\x01", "b\x01a\x01", "b\x00a\x00", "a\x00a\x01", "a\x3db\x01b\x01", "a\x02c\x02b\x02", "a\x01b\x01c\x01c\x01", "\xff\x01\x00\x01", "\x00\x01\x00\x01"} {
+	for _, rows := range []string{"a\x01a\x01", "b\x01a\x01", "a\x3db\x01b\x01", "a\x02c\x02b\x02", "a\x01b\x01c\x01c\x01", "\xff\x01\x00\x01", "\x00\x01\x00\x01"} {
 		wantNotTaken(t, said(2, rows, "0000"), 9, api.ErrForm)
 		wantNotTaken(t, said(2, rows, ""), 9, api.ErrForm)
 	}
 	wantTake(t, said(1, "\x00\x01\xff\x01", "1"), 9, []byte{255})
 	wantTake(t, said(1, "\x7f\x01\x80\x01", "1"), 9, []byte{128})
+}
+
+// P25.4: from the left: of two rows that are wrong the first one is told; in one row the errors come in the order in which they are named.
+func TestTakeTableFromTheLeft(t *testing.T) {
+	for _, c := range []struct {
+		rows int
+		b    string
+		want api.Errno
+	}{
+		// A length 0 stands ahead of a table's end, and of a byte that does not rise.
+		{2, "a\x00", api.ErrArg}, {2, "a\x00b", api.ErrArg}, {3, "a\x01b\x00", api.ErrArg}, {256, "\x00\x00", api.ErrArg},
+		{2, "b\x00a\x01", api.ErrArg}, {2, "a\x00a\x01", api.ErrArg}, {2, "b\x00a\x00", api.ErrArg}, {3, "a\x01c\x00b\x01", api.ErrArg},
+		{3, "b\x00a\x01", api.ErrArg}, {3, "b\x00a\x00", api.ErrArg}, {3, "b\x00a", api.ErrArg},
+		// A byte that does not rise stands ahead of a table's end, and of a length 0.
+		{3, "b\x01a\x01", api.ErrForm}, {3, "b\x01a\x01c", api.ErrForm}, {256, "a\x01a\x01", api.ErrForm},
+		{3, "b\x01a\x01c\x00", api.ErrForm}, {4, "b\x01a\x01c\x00", api.ErrForm},
+		// One row is wrong in two ways.
+		{1, "a", api.ErrShort}, {2, "b\x01a", api.ErrShort}, {2, "a\x01a", api.ErrShort}, {3, "a\x01c\x01b", api.ErrShort},
+		{2, "b\x01a\x00", api.ErrForm}, {2, "a\x01a\x00", api.ErrForm}, {3, "b\x01a\x00", api.ErrForm},
+		// Lengths for which there are no words come behind the whole table.
+		{2, "a\x3d", api.ErrShort}, {2, "a\xffb", api.ErrShort}, {2, "b\x3da\x01", api.ErrForm}, {2, "b\xffb\x01", api.ErrForm},
+		{4, "a\x01b\x01c\x01", api.ErrShort}, {4, "a\x01b\x01d\x01c\x01", api.ErrForm},
+		{2, "a\x3db\x00", api.ErrArg},
+	} {
+		wantNotTaken(t, join(num(2), num(c.rows), []byte(c.b)), 9, c.want)
+	}
 }
 
 // P25.4: lengths for which there are no words.

@@ -190,20 +190,17 @@ func plainTake(b []byte, most int) ([]byte, api.Errno) {
 		return nil, api.ErrForm
 	}
 	b = b[n:]
-	if len(b) < 2*rows {
-		return nil, api.ErrShort
-	}
 	var lengths [256]int
 	for i := range rows {
-		if i > 0 && b[2*i] <= b[2*i-2] {
+		switch {
+		case len(b) < 2*i+2:
+			return nil, api.ErrShort
+		case i > 0 && b[2*i] <= b[2*i-2]:
 			return nil, api.ErrForm
-		}
-		lengths[b[2*i]] = int(b[2*i+1])
-	}
-	for i := range rows {
-		if b[2*i+1] == 0 {
+		case b[2*i+1] == 0:
 			return nil, api.ErrArg
 		}
+		lengths[b[2*i]] = int(b[2*i+1])
 	}
 	words, e := plainWords(lengths)
 	if e != api.OK {
